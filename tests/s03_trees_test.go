@@ -82,11 +82,18 @@ func told(n impl.Node) string {
 }
 
 func toldTy(t impl.Ty) string {
-	parts := []string{strconv.Itoa(t.Op), strconv.Itoa(t.N), strconv.Quote(t.S)}
+	var b strings.Builder
+	tellTy(&b, t)
+	return b.String()
+}
+
+func tellTy(b *strings.Builder, t impl.Ty) {
+	b.WriteString("<" + strconv.Itoa(t.Op) + " " + strconv.Itoa(t.N) + " " + strconv.Quote(t.S))
 	for _, kid := range t.Kids {
-		parts = append(parts, toldTy(kid))
+		b.WriteString(" ")
+		tellTy(b, kid)
 	}
-	return "<" + strings.Join(parts, " ") + ">"
+	b.WriteString(">")
 }
 
 func toldProg(p impl.Prog) string {
