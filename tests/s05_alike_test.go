@@ -85,7 +85,10 @@ func unifyBy(s []impl.Bind, a, b impl.Ty) ([]wordBind, bool) {
 		left, right = putFor(bound.name, bound.words, left), putFor(bound.name, bound.words, right)
 	}
 	for len(left) > 0 {
-		l, r := firstOf(left), firstOf(right)
+		l, r := firstOf(left), firstOf(right) // all that was found stands in them
+		if len(l) > tyMost || len(r) > tyMost {
+			return nil, false
+		}
 		if l[0] == r[0] {
 			left, right = left[1:], right[1:]
 			continue
@@ -93,7 +96,7 @@ func unifyBy(s []impl.Bind, a, b impl.Ty) ([]wordBind, bool) {
 		if l[0][0] != 'v' {
 			l, r = r, l
 		}
-		if l[0][0] != 'v' || slices.Contains(r, l[0]) || len(r) > tyMost {
+		if l[0][0] != 'v' || slices.Contains(r, l[0]) {
 			return nil, false
 		}
 		left, right = putFor(l[0], r, left)[len(r):], putFor(l[0], r, right)[len(r):]

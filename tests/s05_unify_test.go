@@ -434,8 +434,9 @@ func holdUnify(t *testing.T, s []impl.Bind, a, b impl.Ty) bool {
 			t.Fatalf("%s does not stand for %s", toldBinds(got), toldBinds(s))
 		}
 	}
-	if again, ok := impl.Unify(got, a, b); !ok || toldBinds(again) != toldBinds(got) {
-		t.Fatalf("made alike again, %s is %s", toldBinds(got), toldBinds(again))
+	fits := sizeBy(applyBy(got, a)) <= tyMost // what the steps never made as a whole is made when all is applied at once
+	if again, ok := impl.Unify(got, a, b); ok != fits || toldBinds(again) != toldBinds(got) {
+		t.Fatalf("made alike again (%v), %s is %s", ok, toldBinds(got), toldBinds(again))
 	}
 	if other, ok := impl.Unify(s, b, a); !ok || len(other) != len(got) {
 		t.Fatalf("with %s %s and %s are made alike, and not the other way round", toldBinds(s), toldTy(a), toldTy(b))
@@ -585,31 +586,118 @@ func TestUnifyOfSizesThatWouldComeOut(t *testing.T) {
 	}
 }
 
-// What both become is no type of a Bind: it may be larger, by s and by what is found.
-func TestUnifyOfSizesThatDoNotComeOut(t *testing.T) {
-	large, half := nested(tyMost, varTy(9)), nested(tyMost/2, varTy(9))
-	s := []impl.Bind{{N: 0, Ty: large}, {N: 7, Ty: intTy()}}
-	for _, c := range []struct {
-		s    []impl.Bind
-		a, b impl.Ty
-	}{
+// A sizeCase is of a substitution and types that are right: they are made alike, or would be but for their size.
+type sizeCase struct {
+	s    []impl.Bind
+	a, b impl.Ty
+}
+
+func holdSizeCase(t *testing.T, c sizeCase, want bool) {
+	t.Helper()
+	if !impl.SubOk(c.s) || !impl.TyOk(c.a) || !impl.TyOk(c.b) {
+		t.Fatalf("what comes in is not right: %s, %s, %s", short(toldBinds(c.s)), short(toldTy(c.a)), short(toldTy(c.b)))
+	}
+	for range 2 {
+		if got := holdUnify(t, c.s, c.a, c.b); got != want {
+			t.Errorf("with %s %s and %s are made alike: %v", short(toldBinds(c.s)), short(toldTy(c.a)), short(toldTy(c.b)), got)
+		}
+		c.a, c.b = c.b, c.a
+	}
+}
+
+// What s makes of a or b: at most of MaxTy, whatever would come out.
+func TestUnifyOfSizesThatAreApplied(t *testing.T) {
+	for size := tyMost - 3; size <= tyMost+3; size++ {
+		s := []impl.Bind{{N: 7, Ty: intTy()}, {N: 0, Ty: flat(size-102, varTy(9))}, {N: 1, Ty: nested(50, intTy())}}
+		for _, ty := range []impl.Ty{
+			funTy(varTy(0), nested(101, intTy())),
+			funTy(varTy(7), dataTy("P", nested(99, varTy(2)), varTy(0))),
+			dataTy("P", intTy(), varTy(0), nested(51, varTy(1))),
+			dataTy("P", varTy(1), varTy(1), varTy(1), nested(size-151, varTy(8))),
+		} {
+			if got := sizeBy(applyBy(s, ty)); got != size {
+				t.Fatalf("a type of %d is made, not of %d", got, size)
+			}
+			apart := impl.Ty{Op: ty.Op, S: ty.S}
+			for n := range ty.Kids {
+				apart.Kids = append(apart.Kids, varTy(20+n))
+			}
+			for _, other := range []impl.Ty{ty, apart, varTy(20), applyBy(s[:2], ty)} {
+				if impl.TyOk(other) {
+					holdSizeCase(t, sizeCase{s, ty, other}, size <= tyMost)
+				}
+			}
+		}
+	}
+}
+
+func TestUnifyOfSizesThatAreAppliedFarAbove(t *testing.T) {
+	s := []impl.Bind{{N: 0, Ty: nested(tyMost, varTy(9))}, {N: 7, Ty: intTy()}}
+	for _, c := range []sizeCase{
 		{s, dataTy("L", varTy(0)), dataTy("L", varTy(0))},
 		{s, funTy(varTy(0), varTy(0)), funTy(varTy(0), varTy(0))},
 		{s, funTy(varTy(0), intTy()), funTy(varTy(0), varTy(3))},
 		{s, funTy(varTy(3), varTy(0)), funTy(varTy(0), varTy(4))},
+		{s, funTy(varTy(3), varTy(0)), funTy(varTy(4), varTy(5))},
+		{s, dataTy("L", varTy(0)), varTy(8)},
+		{s, flat(tyMost, varTy(0)), varTy(8)},
 		{s, flat(tyMost, varTy(0)), flat(tyMost, varTy(0))},
+		{s, flat(tyMost, varTy(0)), flat(tyMost, varTy(8))},
+		{[]impl.Bind{{N: 0, Ty: flat(150, intTy())}}, funTy(varTy(0), varTy(0)), funTy(varTy(0), varTy(0))},
+	} {
+		holdSizeCase(t, c, false)
+	}
+	for _, ty := range []impl.Ty{varTy(0), varTy(9), nested(tyMost, varTy(7)), flat(tyMost, varTy(9))} {
+		holdSizeCase(t, sizeCase{s, ty, ty}, true)
+	}
+}
+
+// What is found ahead of a kid is applied to it, and makes it at most of MaxTy.
+func TestUnifyOfSizesThatAreAppliedToKids(t *testing.T) {
+	twice := funTy(varTy(0), varTy(0))
+	for size := tyMost - 5; size <= tyMost+5; size++ {
+		half := nested(size/2, intTy())
+		made := 2*(size/2) + 1
+		for _, c := range []sizeCase{
+			{nil, funTy(varTy(0), twice), funTy(half, twice)},
+			{nil, funTy(varTy(0), twice), funTy(half, funTy(varTy(1), varTy(2)))},
+			{nil, funTy(half, funTy(varTy(1), varTy(2))), funTy(varTy(0), twice)},
+			{bindsOf("x = Int; y = z"), dataTy("P", varTy(3), varTy(0), twice), dataTy("P", intTy(), half, twice)},
+			{nil, dataTy("P", varTy(0), varTy(1), funTy(varTy(0), varTy(1))), dataTy("P", half, varTy(0), funTy(varTy(2), varTy(3)))},
+			{nil, dataTy("P", varTy(0), twice, intTy()), dataTy("P", half, twice, varTy(1))},
+		} {
+			holdSizeCase(t, c, made <= tyMost)
+		}
+		within := funTy(varTy(0), dataTy("L", twice))
+		holdSizeCase(t, sizeCase{nil, within, funTy(half, varTy(1))}, made+1 <= tyMost)
+		holdSizeCase(t, sizeCase{nil, within, funTy(half, dataTy("L", varTy(1)))}, made+1 <= tyMost)
+		holdSizeCase(t, sizeCase{nil, within, funTy(half, dataTy("L", funTy(varTy(1), varTy(2))))}, made+1 <= tyMost)
+	}
+	wide := flat(150, intTy())
+	holdSizeCase(t, sizeCase{nil, funTy(varTy(0), twice), funTy(wide, twice)}, false)
+}
+
+// What no step makes is no reason: kids are met one by one, each with what was found till then.
+func TestUnifyOfSizesThatNoStepMakes(t *testing.T) {
+	wide, half := flat(150, intTy()), nested(tyMost/2, varTy(9))
+	twice := funTy(varTy(0), varTy(0))
+	for _, c := range []sizeCase{
+		{nil, twice, funTy(wide, varTy(0))},
+		{nil, twice, funTy(varTy(0), wide)},
+		{nil, funTy(twice, varTy(0)), funTy(twice, wide)},
+		{nil, funTy(varTy(1), varTy(0)), funTy(twice, nested((tyMost-1)/2, intTy()))},
 		{nil, funTy(varTy(0), varTy(1)), funTy(nested(tyMost-2, intTy()), varTy(0))},
 		{nil, dataTy("P", varTy(0), varTy(1), varTy(2)), dataTy("P", half, varTy(0), varTy(0))},
-		{nil, dataTy("P", varTy(0), funTy(varTy(0), varTy(0))), dataTy("P", half, funTy(varTy(1), varTy(2)))},
-		{nil, dataTy("P", half, funTy(varTy(1), varTy(2))), dataTy("P", varTy(0), funTy(varTy(0), varTy(0)))},
+		{nil, dataTy("P", varTy(0), varTy(0), varTy(0), varTy(0)), dataTy("P", half, varTy(1), varTy(2), varTy(3))},
+		{nil, dataTy("P", twice, varTy(0)), dataTy("P", funTy(varTy(1), varTy(2)), half)},
+		{nil, flat(50, varTy(0)), flat(50, varTy(1))},
+		{[]impl.Bind{{N: 5, Ty: nested(tyMost, intTy())}, {N: 6, Ty: wide}}, funTy(varTy(1), varTy(2)), funTy(varTy(2), nested(tyMost-2, intTy()))},
 	} {
-		if !holdUnify(t, c.s, c.a, c.b) {
-			t.Errorf("with %s %s and %s are not made alike", toldBinds(c.s), toldTy(c.a), toldTy(c.b))
-		}
+		holdSizeCase(t, c, true)
 	}
-	wantApart(t, nil, dataTy("P", varTy(0), funTy(varTy(0), varTy(0))), dataTy("P", half, varTy(1)))
-	wantApart(t, s, dataTy("L", varTy(0)), varTy(8))
-	wantApart(t, s, flat(tyMost, varTy(0)), varTy(8))
+	all := flat(50, varTy(0))
+	all.Kids[48] = wide
+	holdSizeCase(t, sizeCase{nil, flat(50, varTy(0)), all}, true)
 }
 
 // Each var is twice the one ahead of it: only the last one would be too large.
