@@ -42,3 +42,17 @@ func TestTypesOfStopsEarly(t *testing.T) {
 		}
 	}
 }
+
+// What goes through types may be asked for them again.
+func TestTypesOfAreToldAgain(t *testing.T) {
+	all := typesOf(someDatas())
+	for range 2 {
+		met := map[int]int{}
+		for ty := range all {
+			met[ty.Op]++
+		}
+		if met[TyInt] != 3 || met[TyVar] != 1 || met[TyFun] != 1 || met[TyData] != 1 {
+			t.Errorf("the types are %v", met)
+		}
+	}
+}
