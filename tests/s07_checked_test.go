@@ -8,7 +8,11 @@ import (
 
 // Each node held against its kids alone, as chapter 8 has it: a text says what is wrong, and none that nothing is.
 
-type checker struct{ datas []impl.Data }
+// A checker asks that Vars are all that may be for all; where it asks for some alone, as chapter 8 does, they may be fewer, and in any order.
+type checker struct {
+	datas []impl.Data
+	some  bool
+}
 
 func sameTy(a, b impl.Ty) bool { return toldTy(a) == toldTy(b) }
 
@@ -88,9 +92,9 @@ func (c checker) rightAlone(t impl.Typed, about []given) bool {
 	case impl.NdApp:
 		return sameTy(t.Kids[0].Ty, funTy(t.Kids[1].Ty, t.Ty))
 	case impl.NdLet:
-		return sameTy(t.Ty, t.Kids[1].Ty) && areForAll(t, t.Kids[0].Ty, about)
+		return sameTy(t.Ty, t.Kids[1].Ty) && c.areForAll(t, t.Kids[0].Ty, about)
 	case impl.NdRec:
-		return len(t.Inst) == 1 && sameTy(t.Ty, t.Kids[1].Ty) && areForAll(t, funTy(t.Inst[0], t.Kids[0].Ty), about)
+		return len(t.Inst) == 1 && sameTy(t.Ty, t.Kids[1].Ty) && c.areForAll(t, funTy(t.Inst[0], t.Kids[0].Ty), about)
 	case impl.NdIf:
 		return isInt(t.Kids[0]) && sameTy(t.Ty, t.Kids[1].Ty) && sameTy(t.Ty, t.Kids[2].Ty)
 	case impl.NdCase:
@@ -122,8 +126,8 @@ func nameIsRight(t impl.Typed, about []given) bool {
 	return false
 }
 
-// areForAll holds that Vars are all vars of a type that are free in nothing bound about it, ascending.
-func areForAll(t impl.Typed, ty impl.Ty, about []given) bool {
+// areForAll holds that Vars are all vars of a type that are free in nothing bound about it, ascending, or some of them.
+func (c checker) areForAll(t impl.Typed, ty impl.Ty, about []given) bool {
 	var free []int
 	for _, g := range about {
 		for _, n := range freeVarsBy(g.ty) {
@@ -132,7 +136,11 @@ func areForAll(t impl.Typed, ty impl.Ty, about []given) bool {
 			}
 		}
 	}
-	return slices.Equal(t.Vars, slices.DeleteFunc(freeVarsBy(ty), func(n int) bool { return slices.Contains(free, n) }))
+	all := slices.DeleteFunc(freeVarsBy(ty), func(n int) bool { return slices.Contains(free, n) })
+	if c.some {
+		return !slices.ContainsFunc(t.Vars, func(n int) bool { return !slices.Contains(all, n) })
+	}
+	return slices.Equal(t.Vars, all)
 }
 
 func (c checker) conIsRight(t impl.Typed) bool {

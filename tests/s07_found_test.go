@@ -243,6 +243,9 @@ func toldTyped(t impl.Typed) string {
 
 // numbered writes a type with the numbers of its vars.
 func numbered(t impl.Ty) string {
+	if t.Op == impl.TyFun && len(t.Kids) != 2 {
+		return toldTy(t)
+	}
 	switch t.Op {
 	case impl.TyInt:
 		return "Int"

@@ -47,7 +47,7 @@ func holdInfer(t *testing.T, p impl.Prog) int {
 		}
 		return how
 	}
-	if why := (checker{p.Datas}).wrong(got, nil); why != "" {
+	if why := (checker{datas: p.Datas}).wrong(got, nil); why != "" {
 		t.Fatalf("Infer(%s): %s", short(toldProg(p)), why)
 	}
 	if why := freeSomewhere(got); why != "" {
