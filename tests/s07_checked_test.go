@@ -8,7 +8,7 @@ import (
 
 // Each node held against its kids alone, as chapter 8 has it: a text says what is wrong, and none that nothing is.
 
-// A checker asks that Vars are all that may be for all; where it asks for some alone, as chapter 8 does, they may be fewer, and in any order.
+// A checker asks that Vars are all that may be for all, and that no other node has Vars, nor Insts; where it asks for some alone, as chapter 8 does, they may be fewer, and in any order, and those of other nodes are not asked.
 type checker struct {
 	datas []impl.Data
 	some  bool
@@ -73,11 +73,15 @@ func namedBy(t impl.Typed) []given {
 	return list
 }
 
+// asksInst and asksVars tell of which nodes the chapters name Insts and Vars.
+func asksInst(op int) bool {
+	return slices.Contains([]int{impl.NdVar, impl.NdCon, impl.PtCon, impl.NdRec}, op)
+}
+
+func asksVars(op int) bool { return op == impl.NdLet || op == impl.NdRec }
+
 func (c checker) rightAlone(t impl.Typed, about []given) bool {
-	if t.Op != impl.NdVar && t.Op != impl.NdCon && t.Op != impl.PtCon && t.Op != impl.NdRec && len(t.Inst) > 0 {
-		return false
-	}
-	if t.Op != impl.NdLet && t.Op != impl.NdRec && len(t.Vars) > 0 {
+	if !c.some && (!asksInst(t.Op) && len(t.Inst) > 0 || !asksVars(t.Op) && len(t.Vars) > 0) {
 		return false
 	}
 	switch t.Op {

@@ -214,7 +214,7 @@ func (m bindMap) wrong(found, other impl.Typed) string {
 	if len(found.Kids) != len(other.Kids) || !m.makes(found.Ty, other.Ty) {
 		return shown(found) + " does not stand for " + shown(other)
 	}
-	if found.Op != impl.NdVar { // a name may be for fewer vars than could be: then it has fewer Insts
+	if asksInst(found.Op) && found.Op != impl.NdVar { // a name may be for fewer vars than could be: then it has fewer Insts
 		if len(found.Inst) != len(other.Inst) {
 			return shown(found) + " has other Insts than " + shown(other)
 		}

@@ -277,10 +277,10 @@ func TestTooFewAndTooMany(t *testing.T) {
 			}
 			more := kept
 			more.Inst = append(slices.Clone(kept.Inst), intTy())
-			turned(more, false)
+			turned(more, !asksInst(kept.Op))
 			more = kept
 			more.Vars = append(slices.Clone(kept.Vars), 1000)
-			turned(more, false)
+			turned(more, !asksVars(kept.Op))
 			for _, kid := range []impl.Typed{typedNum(), patternAny(intTy()), patternAny(kept.Ty), {}, {Op: impl.NdAlt, Ty: dataTy("Q"), Kids: []impl.Typed{patternAny(intTy()), typedNum()}}} {
 				more = kept
 				more.Kids = append(slices.Clone(kept.Kids), kid)
