@@ -10,9 +10,11 @@ import (
 
 const madeDatas = "data L a = N | C a (L a); data P a b = P a b; data U = U | V Int | W U; data F b a = F (a -> b) (L a) | G;"
 
+// A maker whose cases are whole makes none that misses anything.
 type maker struct {
 	*steps
 	datas []impl.Data
+	whole bool
 }
 
 // A known is a name that is bound, and its type, whose vars may stand for anything.
@@ -22,7 +24,12 @@ type known struct {
 }
 
 func (s *steps) madeProg(deep int) impl.Prog {
-	m := maker{s, datasOf(madeDatas)}
+	m := maker{steps: s, datas: datasOf(madeDatas)}
+	return impl.Prog{Datas: m.datas, Main: m.made(m.groundTy(3), nil, deep)}
+}
+
+func (s *steps) wholeProg(deep int) impl.Prog {
+	m := maker{steps: s, datas: datasOf(madeDatas), whole: true}
 	return impl.Prog{Datas: m.datas, Main: m.made(m.groundTy(3), nil, deep)}
 }
 
@@ -141,7 +148,30 @@ func (m maker) caseOf(ty impl.Ty, about []known, deep int) impl.Node {
 		p := m.patternFor(other, &named, 3)
 		n.Kids = append(n.Kids, anAlt(p, m.made(ty, append(slices.Clone(about), named...), deep-1)))
 	}
+	if m.whole {
+		for _, row := range m.parted([]impl.Ty{other}, m.below(3), 2) {
+			var named []known
+			p := m.withNames(row[0], other, &named)
+			n.Kids = append(n.Kids, anAlt(p, m.made(ty, append(slices.Clone(about), named...), deep-1)))
+		}
+	}
 	return n
+}
+
+// withNames puts names in the place of some that fit anything.
+func (m maker) withNames(p impl.Node, ty impl.Ty, named *[]known) impl.Node {
+	if p.Op == impl.PtAny {
+		return m.patternFor(ty, named, 1)
+	}
+	if p.Op != impl.PtCon {
+		return p
+	}
+	data, con := impl.ConOf(m.datas, p.S)
+	q := conPat(p.S)
+	for i, arg := range argsOf(m.datas[data].Cons[con], ty) {
+		q.Kids = append(q.Kids, m.withNames(p.Kids[i], arg, named))
+	}
+	return q
 }
 
 func (m maker) patternFor(ty impl.Ty, named *[]known, deep int) impl.Node {

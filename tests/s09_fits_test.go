@@ -79,7 +79,7 @@ func (m maker) someTypes(most, deep int) []impl.Ty {
 	}
 }
 
-func newMaker(s *steps) maker { return maker{s, datasOf(madeDatas)} }
+func newMaker(s *steps) maker { return maker{steps: s, datas: datasOf(madeDatas)} }
 
 // alternativesOf has an alternative without kids for a row without columns.
 func alternativesOf(rows [][]impl.Node) []impl.Node {
