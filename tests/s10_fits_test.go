@@ -3,6 +3,7 @@ package tests
 import (
 	"math"
 	"slices"
+	"strings"
 	"testing"
 
 	"loop.example/g00323/impl"
@@ -223,7 +224,7 @@ func TestWhatMissesNothingHasSomethingThatFits(t *testing.T) {
 }
 
 func valueWithRoom(v impl.Value) impl.Value {
-	made := impl.Value{Kind: v.Kind, N: v.N, S: v.S}
+	made := impl.Value{Kind: v.Kind, N: v.N, S: strings.Clone(v.S)}
 	for _, kid := range v.Kids {
 		made.Kids = append(made.Kids, valueWithRoom(kid))
 	}
