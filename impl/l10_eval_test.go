@@ -2,6 +2,7 @@ package impl
 
 import (
 	"errors"
+	"slices"
 	"testing"
 )
 
@@ -73,6 +74,55 @@ func TestShapesOfValues(t *testing.T) {
 			if fits(p, v, workShape) != Fits(p, v.told()) {
 				t.Errorf("a pattern of kind %d fits %s at work or told alone", p.Op, ValueText(v.told()))
 			}
+		}
+	}
+}
+
+// A text is read as a con of its first byte, whose kids are all that is left of it without one more; `?` is none.
+func topOfText(s string) (Value, []string, bool) {
+	var kids []string
+	for i := 1; i < len(s); i++ {
+		kids = append(kids, s[i:])
+	}
+	return Value{Kind: VlCon, S: s[:1]}, kids, s[0] != '?'
+}
+
+// What is read tells how far it went, whatever it is read out of.
+func TestReadOfTexts(t *testing.T) {
+	for _, c := range []struct {
+		text       string
+		deep, left int
+		want       string
+		over       int
+	}{
+		{"a", 1, 1, "a", 0}, {"a", 0, 9, "", 9}, {"a", 1, 0, "", 0}, {"a", 9, 9, "a", 8},
+		{"ab", 2, 2, "(a b)", 0}, {"ab", 1, 9, "", 8}, {"ab", 2, 1, "", 0},
+		{"abc", 3, 4, "(a (b c) c)", 0}, {"abc", 3, 3, "", 0}, {"abc", 2, 9, "", 7},
+		{"abcd", 4, 8, "(a (b (c d) d) (c d) d)", 0}, {"abcd", 4, 7, "", 0}, {"abcd", 3, 9, "", 6}, {"abcd", 200, 4000, "(a (b (c d) d) (c d) d)", 3992},
+		{"?", 9, 9, "", 8}, {"?a", 9, 9, "", 8}, {"a?", 9, 9, "", 7}, {"ab?", 9, 9, "", 6}, {"a?b", 9, 9, "", 7},
+	} {
+		left := c.left
+		v, ok := read(c.text, topOfText, c.deep, &left)
+		if ok != (c.want != "") || ok && ValueText(v) != c.want || !ok && (v.Kind != 0 || v.S != "" || v.Kids != nil) {
+			t.Errorf("read(%q) is %s and %v", c.text, ValueText(v), ok)
+		}
+		if left != c.over {
+			t.Errorf("read(%q) leaves %d, not %d", c.text, left, c.over)
+		}
+	}
+}
+
+// What comes round to itself ends where so many are within each other, or where none are left.
+func TestReadOfWhatHasNoEnd(t *testing.T) {
+	for _, kids := range []int{1, 2, 20} {
+		asked := 0
+		left := MaxValue
+		_, ok := read(kids, func(int) (Value, []int, bool) {
+			asked++
+			return Value{Kind: VlCon}, slices.Repeat([]int{kids}, kids), true
+		}, MaxTy, &left)
+		if ok || asked != MaxTy || left != MaxValue-MaxTy {
+			t.Errorf("what has itself %d times is read %d times: %v", kids, asked, ok)
 		}
 	}
 }

@@ -148,6 +148,25 @@ func TestValuesThatAreMany(t *testing.T) {
 	wantValues(t, treesOf(7, doubled+"C 1 (C 2 "+"("+all+"))"), 4002)
 }
 
+// Only how many values there are is held against a limit, not how many are within each other.
+func TestValuesThatAreDeep(t *testing.T) {
+	about := func(many int, name, within string) string {
+		return strings.Repeat(name+" (", many) + within + strings.Repeat(")", many)
+	}
+	// Each h is 8 f, each of which is 19 S.
+	for _, many := range []int{1, 2, 10, 13, 20} {
+		p, bad := impl.Parse("data O a = N | S a; let f = fun x -> " + about(19, "S", "x") + " in let h = fun x -> " + about(8, "f", "x") + " in " + about(many, "h", "N"))
+		if bad != -1 {
+			t.Fatalf("no program: %d", bad)
+		}
+		r := impl.Eval(p, fuelMost)
+		want := 19*8*many + 1
+		if all, deep := insideOf(r.Value); r.Code != impl.EvDone || all != want || deep != want {
+			t.Errorf("a value of %d within each other is of code %d, and has %d", want, r.Code, deep)
+		}
+	}
+}
+
 // More values than any number can count, and none of them is gone through.
 func TestValuesWithoutNumber(t *testing.T) {
 	quickly(t, "Eval", func() {
