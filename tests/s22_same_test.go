@@ -313,6 +313,21 @@ func TestSameOfDeepValues(t *testing.T) {
 		if got := impl.JudgeAll(evalDatas+src, 1000, false, stepsMost); got != c.want || !impl.JudgeAll(evalDatas+src, 10, false, stepsMost) || !impl.JudgeAll(evalDatas+src, 1000, false, 900) || w.code() != impl.BdDone {
 			t.Errorf("JudgeAll of %s is %v", src, got)
 		}
+		// Its value is asked from the very step at which it halts, and in the first half that has room for it.
+		begun, _ := impl.VmNew(m.Funs, 1000, false)
+		many, room := needed(begun, stepsMost), 1
+		for code := impl.VmRoom; code == impl.VmRoom; room++ {
+			ran, _ := impl.RunOf(evalDatas+src, room, true, stepsMost)
+			code = ran.Code
+		}
+		for _, turn := range []struct {
+			half, many int
+			ends       bool
+		}{{1000, many, true}, {1000, many + 1, true}, {1000, many - 1, false}, {1000, 0, false}, {1000, -1, false}, {room - 1, stepsMost, true}, {room - 2, stepsMost, false}, {halfMost, many, true}, {halfMost + 1, many, false}, {0, many, false}} {
+			if got := impl.JudgeAll(evalDatas+src, turn.half, true, turn.many); got != (c.want || !turn.ends) {
+				t.Errorf("JudgeAll of %s in a half of %d, by %d steps is %v", src, turn.half, turn.many, got)
+			}
+		}
 	}
 }
 
